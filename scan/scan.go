@@ -1,4 +1,4 @@
-// Package scan has the small forms of strings that several chapters read: names, numbers, lines and words.
+// Package scan has the small forms of strings that several chapters read: names, numbers, lines, words and quotes.
 package scan
 
 import (
@@ -14,7 +14,7 @@ func IsName(s string) bool {
 		return false
 	}
 	for i := range len(s) {
-		if !isLetter(s[i]) && !isDigit(s[i]) && s[i] != '_' {
+		if !isNameByte(s[i]) {
 			return false
 		}
 	}
@@ -61,3 +61,5 @@ func Words(line string) ([]string, bool) {
 func isLetter(c byte) bool { return c >= 'a' && c <= 'z' }
 
 func isDigit(c byte) bool { return c >= '0' && c <= '9' }
+
+func isNameByte(c byte) bool { return isLetter(c) || isDigit(c) || c == '_' }
