@@ -6,6 +6,7 @@ import (
 	"testing"
 
 	"hedgelayer/api"
+	"hedgelayer/gram"
 	"hedgelayer/parse"
 )
 
@@ -187,7 +188,7 @@ func TestDerivation(t *testing.T) {
 	is(t, []any{lists, err}, []any{[][]string{}, api.ErrRule})
 }
 
-// P5.4: whether each short word has one tree, for which neither levels nor conflicts matter.
+// P5.4: whether each short word has one tree, for which levels do not matter.
 func TestUnique(t *testing.T) {
 	eight := "a a a a a a a a"
 	tests := []struct {
@@ -196,28 +197,56 @@ func TestUnique(t *testing.T) {
 		err    api.Errno
 	}{
 		{sums, true, api.OK},
-		{"tokens num plus\nstart e\ne = e plus e\ne = num\n", false, api.OK},
 		{"tokens num plus\nstart e\ne = e plus e / 1\ne = num\n", false, api.OK},
-		{"tokens a b\nstart s\ns = x a\ns = y b\nx = a z\ny = a z\nz = a z\nz =\n", true, api.OK}, // no table has just one deed there
-		{"tokens a\nstart s\ns = a t\ns = a u\nt =\nu =\n", false, api.OK},
-		{"tokens a\nstart s\ns = " + eight + "\ns = t\nt = " + eight + "\n", false, api.OK},
-		{"tokens a\nstart s\ns = a " + eight + "\ns = t\nt = a " + eight + "\n", true, api.OK},
-		{"tokens a\nstart s\ns = s\ns = a\n", false, api.ErrState},
+		// By these levels only the words that end with b are accepted; those that end with a have one tree, too.
+		{"tokens a b\nstart s\ns = x a\ns = y b\nx = a z / 1\ny = a z / 2\nz = a z / 2\nz = / 1\n", true, api.OK},
+		{"tokens a\nstart s\ns = a t\ns = a u\nt = / 1\nu =\n", false, api.OK},
+		{"tokens a\nstart s\ns = " + eight + "\ns = t\nt = " + eight + " / 1\n", false, api.OK},
+		{"tokens a\nstart s\ns = a " + eight + "\ns = t\nt = a " + eight + " / 1\n", true, api.OK},
 		{"tokens a\nstart s\ns = s / 1\ns = a\n", false, api.ErrState},
-		{"tokens a\nstart s\ns = s\ns = a " + eight + "\n", true, api.OK}, // no word is asked for its trees
+		{"tokens a\nstart s\ns = s / 1\ns = a " + eight + "\n", true, api.OK}, // no word is asked for its trees
 		{"tokens a\nstart s\ns = s a\n", true, api.OK},
 		{"tokens a\nstart s\ns = a\nt = t\nt = a\n", true, api.OK},
 		// The word of 1 token has 400 trees, and that of 8 tokens more than can be counted.
-		{"tokens a\nstart s\ns" + " =" + strings.Repeat(" t", 20) + "\nt =" + strings.Repeat(" u", 20) + "\nu = a\nu =\n", false, api.ErrFull},
+		{"tokens a\nstart s\ns" + " =" + strings.Repeat(" t", 20) + "\nt =" + strings.Repeat(" u", 20) + "\nu = a / 1\nu = / 1\n", false, api.ErrFull},
 	}
 	for _, x := range tests {
 		unique, err := parse.Unique(read(t, x.text))
 		is(t, []any{x.text, unique, err}, []any{x.text, x.unique, x.err})
 	}
+}
+
+// P5.1: Unique asks for the errors of the table first, too, whether short words have one tree or more.
+func TestUniqueWithoutTable(t *testing.T) {
+	eight := "a a a a a a a a"
+	many := "tokens a b c d e f g\nstart s\ns = s s\ns = a\ns = b\ns = c\ns = d\ns = e\ns = f\ns = g\n"
+	conflicts := []string{
+		"tokens num plus\nstart e\ne = e plus e\ne = num\n",
+		"tokens a b\nstart s\ns = x a b\ns = y a a\nx =\ny =\n",
+		"tokens a b\nstart s\ns = x a\ns = y b\nx = a z\ny = a z\nz = a z\nz =\n", // no table has just one deed there
+		"tokens a\nstart s\ns = a t\ns = a u\nt =\nu =\n",
+		"tokens a\nstart s\ns = a " + eight + "\ns = t\nt = a " + eight + "\n",
+		// Levels that leave a conflict.
+		"tokens a b\nstart s\ns = x a b\ns = y a a\nx = / 1\ny = / 1\n",
+		"tokens num plus\nstart e\ne = e plus e\ne = num / 1\n",
+		// What is wrong with their words or trees comes behind.
+		"tokens a\nstart s\ns = s\ns = a\n",
+		"tokens a\nstart s\ns = s\ns = a " + eight + "\n",
+		"tokens a\nstart s\ns" + " =" + strings.Repeat(" t", 20) + "\nt =" + strings.Repeat(" u", 20) + "\nu = a\nu =\n",
+		many,
+	}
+	for _, text := range conflicts {
+		unique, err := parse.Unique(read(t, text))
+		is(t, []any{text, unique, err}, []any{text, false, api.ErrConflict})
+	}
+	_, err := gram.Words(read(t, many), api.MaxShort)
+	is(t, err, api.ErrFull)
 	unique, err := parse.Unique(api.Grammar{})
 	is(t, []any{unique, err}, []any{false, api.ErrNone})
-	unique, err = parse.Unique(tooMany())
+	unique, err = parse.Unique(contexts())
 	is(t, []any{unique, err}, []any{true, api.OK})
+	unique, err = parse.Unique(tooMany())
+	is(t, []any{unique, err}, []any{false, api.ErrFull})
 }
 
 // P5.4: MaxWords words are not too many; one more is.

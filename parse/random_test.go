@@ -5,7 +5,6 @@ import (
 	"math/rand/v2"
 	"reflect"
 	"slices"
-	"strings"
 	"testing"
 
 	"hedgelayer/api"
@@ -402,13 +401,17 @@ func TestRandomBeginnings(t *testing.T) {
 	}
 }
 
-// P5.4: Unique asks for the trees of all short words, in all grammars.
+// P5.1, P5.4: Unique asks for the table, and then for the trees of all short words.
 func TestRandomUnique(t *testing.T) {
 	r := rand.New(rand.NewPCG(8, 9))
 	met := map[string]int{}
-	for range 1_000 {
-		g := randomGrammar(r, 1)
-		words, want := gram.Words(g, api.MaxShort)
+	for range 2_000 {
+		g := randomGrammar(r, 2)
+		var words [][]string
+		_, want := table.Make(g, api.TableFull)
+		if want == api.OK {
+			words, want = gram.Words(g, api.MaxShort)
+		}
 		unique := want == api.OK
 		for _, word := range words {
 			if want == api.OK {
@@ -419,9 +422,9 @@ func TestRandomUnique(t *testing.T) {
 		}
 		got, err := parse.Unique(g)
 		is(t, []any{g, got, err}, []any{g, unique && want == api.OK, want})
-		met[strings.Join([]string{fmt.Sprint(got), fmt.Sprint(err)}, " ")]++
+		met[fmt.Sprint(got, err)]++
 	}
-	for _, key := range []string{"true 0", "false 0", fmt.Sprint("false ", int(api.ErrState)), fmt.Sprint("false ", int(api.ErrTwice))} {
+	for _, key := range []string{fmt.Sprint(true, api.OK), fmt.Sprint(false, api.OK), fmt.Sprint(false, api.ErrState), fmt.Sprint(false, api.ErrTwice), fmt.Sprint(false, api.ErrConflict)} {
 		if met[key] < 5 {
 			t.Errorf("%s: %d times", key, met[key])
 		}
